@@ -379,11 +379,15 @@ func PlanText(p Plan) (string, bool) {
 	for i, s := range p.Steps {
 		steps[i] = strconv.Itoa(s.A) + "*" + strconv.Itoa(s.B)
 	}
-	outputs := make([]string, len(p.Outputs))
-	for i, o := range p.Outputs {
-		outputs[i] = strconv.Itoa(o)
+	return strconv.Itoa(p.Inputs) + ":" + listText(steps) + ":" + listText(numberTexts(p.Outputs)), true
+}
+
+func numberTexts(numbers []int) []string {
+	texts := make([]string, len(numbers))
+	for i, n := range numbers {
+		texts[i] = strconv.Itoa(n)
 	}
-	return strconv.Itoa(p.Inputs) + ":" + listText(steps) + ":" + listText(outputs), true
+	return texts
 }
 
 func listText(parts []string) string {
@@ -401,7 +405,7 @@ func ParsePlan(s string) (Plan, bool) {
 	}
 	inputs, err := strconv.Atoi(parts[0])
 	steps, ok := parseSteps(parts[1])
-	outputs, fine := parseNumbers(parts[2])
+	outputs, fine := parseNumbers(textParts(parts[2]))
 	if err != nil || !ok || !fine {
 		return Plan{}, false
 	}
@@ -427,9 +431,9 @@ func parseSteps(s string) ([]Step, bool) {
 	return steps, true
 }
 
-func parseNumbers(s string) ([]int, bool) {
+func parseNumbers(parts []string) ([]int, bool) {
 	var numbers []int
-	for _, part := range textParts(s) {
+	for _, part := range parts {
 		n, err := strconv.Atoi(part)
 		if err != nil {
 			return nil, false

@@ -9,15 +9,10 @@ import (
 	"loop.example/g01098/impl"
 )
 
-// planCall is a call of a function of chapter 1 in which everything but the plan is valid.
-type planCall struct {
-	name string
-	run  func(p impl.Plan) []any
-}
-
-func planCalls() []planCall {
+// planCalls has all functions of chapter 1 that are called with a plan.
+func planCalls() []call[impl.Plan] {
 	square := plan(1, steps(0, 0), 1)
-	return []planCall{
+	return []call[impl.Plan]{
 		{"IsPlan", func(p impl.Plan) []any { return all(impl.IsPlan(p)) }},
 		{"ValueExponents", func(p impl.Plan) []any { return all(impl.ValueExponents(p, 0)) }},
 		{"OutputExponents", func(p impl.Plan) []any { return all(impl.OutputExponents(p)) }},
@@ -126,11 +121,7 @@ func doublings(count int) []impl.Step {
 }
 
 func TestInvalidPlansGiveZero(t *testing.T) {
-	for name, p := range invalidPlans() {
-		for _, c := range planCalls() {
-			expectZero(t, c.name+" of "+name, c.run(p))
-		}
-	}
+	expectZeroOfAll(t, planCalls(), invalidPlans())
 }
 
 // roomy returns a copy of p with spare capacity behind its lists, full of numbers that no plan has.
@@ -144,31 +135,6 @@ func roomy(p impl.Plan) impl.Plan {
 // whole shows a plan with what stands in its spare capacity.
 func whole(p impl.Plan) string {
 	return fmt.Sprint(p, p.Steps[:cap(p.Steps)], p.Outputs[:cap(p.Outputs)])
-}
-
-// overwrite sets everything that a result gives access to.
-func overwrite(v reflect.Value) {
-	switch v.Kind() {
-	case reflect.Int:
-		v.SetInt(-9)
-	case reflect.Struct:
-		for i := range v.NumField() {
-			overwrite(v.Field(i))
-		}
-	case reflect.Slice:
-		v = v.Slice(0, v.Cap())
-		for i := range v.Len() {
-			overwrite(v.Index(i))
-		}
-	}
-}
-
-func overwriteAll(results []any) {
-	for _, x := range results {
-		copied := reflect.New(reflect.TypeOf(x)).Elem()
-		copied.Set(reflect.ValueOf(x))
-		overwrite(copied)
-	}
 }
 
 func samplePlans() []impl.Plan {
@@ -186,38 +152,7 @@ func samplePlans() []impl.Plan {
 }
 
 func TestPlansStayAsTheyAre(t *testing.T) {
-	for _, sample := range samplePlans() {
-		for _, c := range planCalls() {
-			p := roomy(sample)
-			before := whole(p)
-			got := c.run(p)
-			text := fmt.Sprint(got)
-			if whole(p) != before {
-				t.Fatalf("%s changes %v to %v", c.name, before, whole(p))
-			}
-			overwriteAll(got)
-			if whole(p) != before {
-				t.Fatalf("%s of %v returns memory of its argument", c.name, before)
-			}
-			if again := fmt.Sprint(c.run(p)); again != text {
-				t.Fatalf("%s of %v returns %v and then %v", c.name, before, text, again)
-			}
-		}
-	}
-}
-
-func TestResultsOutliveTheirPlans(t *testing.T) {
-	for _, sample := range samplePlans() {
-		for _, c := range planCalls() {
-			p := roomy(sample)
-			got := c.run(p)
-			text := fmt.Sprint(got)
-			overwriteAll(all(p))
-			if fmt.Sprint(got) != text {
-				t.Fatalf("%s of %v: the result changes with its argument", c.name, sample)
-			}
-		}
-	}
+	expectNoTrace(t, planCalls(), samplePlans(), roomy, whole)
 }
 
 func TestListsStayAsTheyAre(t *testing.T) {
