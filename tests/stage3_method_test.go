@@ -602,18 +602,23 @@ func expectSquares(t *testing.T, targets ...int) {
 	}
 }
 
-func TestPlansBySquares(t *testing.T) {
+// manyTargets has all short lists of small numbers, and all of manyNumbers alone and among others.
+func manyTargets() [][]int {
+	var lists [][]int
 	for _, n := range manyNumbers() {
-		expectSquares(t, n)
-		expectSquares(t, n, n)
-		expectSquares(t, 1, n)
-		expectSquares(t, n, 7, 1)
-		expectSquares(t, 1, 2, 4, 3, n, 1)
+		lists = append(lists, []int{n}, []int{n, n}, []int{1, n}, []int{n, 7, 1}, []int{1, 2, 4, 3, n, 1})
 	}
 	for length, below := range map[int]int{1: 200, 2: 40, 3: 12, 4: 6, 5: 4, 6: 4} {
 		for _, list := range allLists(length, below) {
-			expectSquares(t, shiftedBy(list, 1)...)
+			lists = append(lists, shiftedBy(list, 1))
 		}
+	}
+	return lists
+}
+
+func TestPlansBySquares(t *testing.T) {
+	for _, targets := range manyTargets() {
+		expectSquares(t, targets...)
 	}
 }
 
@@ -637,8 +642,9 @@ func TestPlansBySquaresAtTheEdges(t *testing.T) {
 	expect(t, "MaxExponent", all(len(p.Steps), ok), 25, true)
 }
 
-func TestTargetsThatAreNone(t *testing.T) {
-	for name, targets := range map[string][]int{
+// invalidTargets returns for each rule of SquaresPlan some lists that break it.
+func invalidTargets() map[string][]int {
+	return map[string][]int{
 		"none":            nil,
 		"empty":           {},
 		"0":               {0},
@@ -652,7 +658,11 @@ func TestTargetsThatAreNone(t *testing.T) {
 		"too great last":  {1, impl.MaxExponent + 1},
 		"a power of two":  {1 << 20},
 		"far too many":    countTo(1000),
-	} {
+	}
+}
+
+func TestTargetsThatAreNone(t *testing.T) {
+	for name, targets := range invalidTargets() {
 		expectZero(t, name, all(impl.SquaresPlan(targets)))
 	}
 }
