@@ -26,6 +26,8 @@ func overwrite(v reflect.Value) {
 	switch v.Kind() {
 	case reflect.Int:
 		v.SetInt(-9)
+	case reflect.String:
+		v.SetString("overwritten")
 	case reflect.Struct:
 		for i := range v.NumField() {
 			overwrite(v.Field(i))
